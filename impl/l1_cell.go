@@ -47,11 +47,7 @@ func StepTimes(l []Cell, times int) ([]Cell, bool) {
 	if !GoodCells(l) || times < 0 || times > maxTimes {
 		return nil, false
 	}
-	now, ok := append([]Cell(nil), l...), true
-	for i := 0; ok && i < times; i++ {
-		now, ok = StepCells(now)
-	}
-	return now, ok
+	return timesOver(l, times, StepCells)
 }
 
 func CellsOf(l []Cell) ([]Cell, bool) {
@@ -155,6 +151,15 @@ func stepFreely(l []Cell) []Cell {
 	near := nearCounts(l)
 	deleteDead(near, l)
 	return inOrder(near)
+}
+
+// timesOver ends at the first step that is told false, so that none goes on from what is no good list; for no step at all it still tells new memory.
+func timesOver(l []Cell, times int, step func([]Cell) ([]Cell, bool)) ([]Cell, bool) {
+	now, ok := append([]Cell(nil), l...), true
+	for i := 0; ok && i < times; i++ {
+		now, ok = step(now)
+	}
+	return now, ok
 }
 
 // nearCounts has only cells with a neighbour: no other one can live on or be born.
